@@ -128,11 +128,16 @@ func (p permutation) text() string {
 
 // leastCommonMultiple returns the least common multiple of two positive numbers.
 func leastCommonMultiple(a int64, b int64) int64 {
-	x, y := a, b
-	for y != 0 {
-		x, y = y, x%y
+	return a / greatestCommonDivisor(a, b) * b
+}
+
+// greatestCommonDivisor returns the greatest common divisor of two numbers that are not negative
+// and not both 0.
+func greatestCommonDivisor(a int64, b int64) int64 {
+	for b != 0 {
+		a, b = b, a%b
 	}
-	return a / x * b
+	return a
 }
 
 // IsTable reports whether t is a table.
