@@ -118,35 +118,23 @@ func hasRows(t [][]int64) bool {
 	})
 }
 
-// foundRacks returns all racks with n elements, n at most 5, found without the program: row after
-// row, each of them dropped as soon as it is wrong beside the rows before it.
-func foundRacks(n int) []impl.Rack {
-	found := []impl.Rack{}
+// foundTables returns all tables of n elements with permutations as rows that are nowhere wrong: row
+// after row, each of them dropped as soon as the rows so far are wrong at some x and y of them.
+func foundTables(n int, isWrong func(t [][]int64, x int, y int) bool) [][][]int64 {
+	found := [][][]int64{}
 	rows := everyPermutation(n)
 	t := [][]int64{}
-	// The condition at x, y and all z tells of the rows of x, y and x > y alone.
-	isWrong := func(x int, y int) bool {
-		if int(t[x][y]) >= len(t) {
-			return false
-		}
-		for z := range n {
-			if t[x][t[y][z]] != t[t[x][y]][t[x][z]] {
-				return true
-			}
-		}
-		return false
-	}
 	var search func()
 	search = func() {
 		for x := range t {
 			for y := range t {
-				if isWrong(x, y) {
+				if isWrong(t, x, y) {
 					return
 				}
 			}
 		}
 		if len(t) == n {
-			found = append(found, impl.Rack{Table: guardedTable(t)})
+			found = append(found, guardedTable(t))
 			return
 		}
 		for _, row := range rows {
@@ -156,6 +144,27 @@ func foundRacks(n int) []impl.Rack {
 		}
 	}
 	search()
+	return found
+}
+
+// foundRacks returns all racks with n elements, n at most 5, found without the program.
+func foundRacks(n int) []impl.Rack {
+	// The condition at x, y and all z tells of the rows of x, y and x > y alone.
+	tables := foundTables(n, func(t [][]int64, x int, y int) bool {
+		if int(t[x][y]) >= len(t) {
+			return false
+		}
+		for z := range n {
+			if t[x][t[y][z]] != t[t[x][y]][t[x][z]] {
+				return true
+			}
+		}
+		return false
+	})
+	found := []impl.Rack{}
+	for _, t := range tables {
+		found = append(found, impl.Rack{Table: t})
+	}
 	return found
 }
 
