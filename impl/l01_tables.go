@@ -74,6 +74,15 @@ func (p permutation) inverse() permutation {
 	return r
 }
 
+// inversesOf returns the inverses of permutations.
+func inversesOf(list [][]int64) [][]int64 {
+	inverses := make([][]int64, len(list))
+	for i, p := range list {
+		inverses[i] = permutation(p).inverse()
+	}
+	return inverses
+}
+
 // cycleLengths returns the lengths of all cycles of p in ascending order.
 func (p permutation) cycleLengths() []int64 {
 	var seen [MaxSize]bool
@@ -147,13 +156,18 @@ func IsTable(t [][]int64) bool {
 		return false
 	}
 	for _, row := range t {
-		if int64(len(row)) != n {
+		if int64(len(row)) != n || !areElements(n, row) {
 			return false
 		}
-		for _, x := range row {
-			if x < 0 || x >= n {
-				return false
-			}
+	}
+	return true
+}
+
+// areElements reports whether all numbers of a list are elements of a set of n.
+func areElements(n int64, list []int64) bool {
+	for _, x := range list {
+		if x < 0 || x >= n {
+			return false
 		}
 	}
 	return true
