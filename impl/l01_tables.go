@@ -229,6 +229,12 @@ func OrbitLabels(n int64, list [][]int64) ([]int64, int64) {
 	if !isSystem(n, list) {
 		return nil, ErrInvalid
 	}
+	return orbitLabels(n, list), ErrNone
+}
+
+// orbitLabels returns for each one of n elements the number of its orbit by any number of
+// permutations.
+func orbitLabels(n int64, list [][]int64) []int64 {
 	labels := make([]int64, n)
 	for x := range labels {
 		labels[x] = -1
@@ -240,7 +246,7 @@ func OrbitLabels(n int64, list [][]int64) ([]int64, int64) {
 			next++
 		}
 	}
-	return labels, ErrNone
+	return labels
 }
 
 // labelOrbit gives the label to all elements of the orbit of an element. Inverses are not needed:
@@ -274,8 +280,18 @@ func GroupElements(n int64, list [][]int64) ([][]int64, int64) {
 	return group, ErrNone
 }
 
-// groupUpTo returns the permutations of the group of a system in no special order, and whether
-// there are at most as many as the limit.
+// groupOrder returns the number of permutations of the group of any number of permutations, and
+// ErrNone, or ErrLimit if it is greater than the limit.
+func groupOrder(n int64, list [][]int64, limit int) (int64, int64) {
+	group, ok := groupUpTo(n, list, limit)
+	if !ok {
+		return 0, ErrLimit
+	}
+	return int64(len(group)), ErrNone
+}
+
+// groupUpTo returns the permutations of the group of any number of permutations in no special
+// order, and whether there are at most as many as the limit.
 func groupUpTo(n int64, list [][]int64, limit int) ([][]int64, bool) {
 	first := identityOf(n)
 	group := [][]int64{first}
