@@ -58,10 +58,14 @@ func noMoves(length int) []int64 {
 }
 
 // noTuples are lists that are no tuples of elements of a set of n.
-func noTuples(n int) [][]int64 {
-	bad := [][]int64{make([]int64, impl.MaxTuple+1), make([]int64, 10000), slices.Repeat([]int64{-1}, 13)}
+func noTuples(n int) [][]int64 { return listsOutside(n, impl.MaxTuple) }
+
+// listsOutside are lists that have more than the longest length or a number that is no element of a set
+// of n.
+func listsOutside(n int, longest int) [][]int64 {
+	bad := [][]int64{make([]int64, longest+1), make([]int64, 10000), slices.Repeat([]int64{-1}, longest+1)}
 	for _, x := range notElements(n) {
-		for _, length := range []int{1, 2, 12} {
+		for _, length := range []int{1, 2, longest} {
 			for _, i := range []int{0, length / 2, length - 1} {
 				list := slices.Repeat([]int64{int64(n) - 1}, length)
 				list[i] = x
