@@ -463,18 +463,3 @@ func TestRacksOfWhatMayBeAGroup(t *testing.T) {
 		checkOfGroup(t, u)
 	}
 }
-
-// CyclicGroup is built with chapter 4, since the given tests of it make groups by it.
-func TestCyclicGroup(t *testing.T) {
-	for n := 1; n <= impl.MaxSize; n++ {
-		g, c := impl.CyclicGroup(int64(n))
-		if !equalTables(g.Table, sumTable(n)) || c != impl.ErrNone {
-			t.Errorf("CyclicGroup(%d) = %v, %d", n, g, c)
-		}
-	}
-	for _, n := range wrongSizes() {
-		if g, c := impl.CyclicGroup(n); len(g.Table) != 0 || c != impl.ErrRange {
-			t.Errorf("CyclicGroup(%d) = %v, %d", n, g, c)
-		}
-	}
-}
