@@ -373,9 +373,17 @@ func RenameTable(t [][]int64, p []int64) ([][]int64, int64) {
 	if !IsTable(t) || !IsPermutation(p) || len(t) != len(p) {
 		return nil, ErrInvalid
 	}
-	u := newTable(len(t))
-	renameInto(u, t, p)
-	return u, ErrNone
+	return allRenamed([][][]int64{t}, p)[0], ErrNone
+}
+
+// allRenamed returns what renaming tables by p makes.
+func allRenamed(tables [][][]int64, p permutation) [][][]int64 {
+	list := make([][][]int64, len(tables))
+	for i, t := range tables {
+		list[i] = newTable(len(t))
+		renameInto(list[i], t, p)
+	}
+	return list
 }
 
 // renameInto writes what renaming t by p makes to u, which has as many elements.
@@ -387,6 +395,18 @@ func renameInto(u [][]int64, t [][]int64, p permutation) {
 	}
 }
 
+// renames reports whether renaming t by p makes u, which has as many elements.
+func renames(t [][]int64, u [][]int64, p permutation) bool {
+	for x, row := range t {
+		for y, z := range row {
+			if u[p[x]][p[y]] != p[z] {
+				return false
+			}
+		}
+	}
+	return true
+}
+
 // LeastTable returns the least form of t, and ErrNone. Errors: ErrLimit if it has more than
 // MaxForm elements.
 func LeastTable(t [][]int64) ([][]int64, int64) {
@@ -396,16 +416,23 @@ func LeastTable(t [][]int64) ([][]int64, int64) {
 	if len(t) > MaxForm {
 		return nil, ErrLimit
 	}
-	least, other := newTable(len(t)), newTable(len(t))
-	p := identityOf(int64(len(t)))
-	renameInto(least, t, p)
+	return leastRenamed(t)[0], ErrNone
+}
+
+// leastRenamed returns the lexicographically smallest one of what renaming tables of equally many
+// elements, all of them by the same permutation, makes. An earlier table counts more.
+func leastRenamed(tables ...[][]int64) [][][]int64 {
+	p := identityOf(int64(len(tables[0])))
+	least, other := allRenamed(tables, p), allRenamed(tables, p)
 	for p.advance() {
-		renameInto(other, t, p)
-		if compareTables(other, least) < 0 {
+		for i, t := range tables {
+			renameInto(other[i], t, p)
+		}
+		if slices.CompareFunc(other, least, compareTables) < 0 {
 			least, other = other, least
 		}
 	}
-	return least, ErrNone
+	return least
 }
 
 // compareTables compares two tables row by row, as slices.Compare compares lists.
